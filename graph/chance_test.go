@@ -145,3 +145,48 @@ func (c *chance) spoilt() api.Sketch {
 	}
 	return s
 }
+
+// crowded is a spoilt sketch that has, of some Kinds, about as many items as a graph may have, or more.
+func (c *chance) crowded() api.Sketch {
+	s := c.spoilt()
+	for _, kind := range []api.ItemKind{api.ActorItem, api.EdgeItem, api.InItem, api.OutItem} {
+		if c.below(2) == 0 {
+			continue
+		}
+		some := append(ofKind(s, kind), api.Item{Kind: kind})
+		for range most(kind) + c.below(4) - len(some) {
+			s.Items = append(s.Items, some[c.below(len(some))])
+		}
+	}
+	mix(c, s.Items)
+	c.places(&s)
+	return s
+}
+
+// turned is the sketch with its items in another order: those of one Kind stand as they stood to one another, those of unlike Kinds do not.
+func (c *chance) turned(s api.Sketch) api.Sketch {
+	left := map[api.ItemKind][]api.Item{}
+	var kinds []api.ItemKind
+	for _, item := range s.Items {
+		left[item.Kind] = append(left[item.Kind], item)
+		kinds = append(kinds, item.Kind)
+	}
+	c.arrange(kinds)
+	t := api.Sketch{Name: s.Name}
+	for _, kind := range kinds {
+		t.Items = append(t.Items, left[kind][0])
+		left[kind] = left[kind][1:]
+	}
+	return t
+}
+
+// arrange puts Kinds in any order: one behind the other, or mixed.
+func (c *chance) arrange(kinds []api.ItemKind) {
+	if c.below(2) == 0 {
+		mix(c, kinds)
+		return
+	}
+	ranks := []int{0, 1, 2, 3, 4}
+	mix(c, ranks)
+	slices.SortFunc(kinds, func(a, b api.ItemKind) int { return ranks[a] - ranks[b] })
+}

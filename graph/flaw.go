@@ -23,7 +23,7 @@ const (
 
 // firstFlaw is a graph's first one, in the order of P8.1; its code is OK, if there is none.
 func firstFlaw(g api.Graph) flaw {
-	f := flaw{code: headError(g)}
+	f := headFlaw(g)
 	l := ledger{names: map[string]int{}}
 	if f.code == api.OK {
 		f = actorFlaw(&l, g.Actors)
@@ -43,29 +43,27 @@ func firstFlaw(g api.Graph) flaw {
 	return f
 }
 
-func headError(g api.Graph) api.Errno {
+func headFlaw(g api.Graph) flaw {
 	switch {
 	case !lex.Name(g.Name):
-		return api.ErrName
+		return flaw{code: api.ErrName}
 	case len(g.Actors) == 0:
-		return api.ErrEmpty
-	case len(g.Actors) > most(api.ActorItem), len(g.Edges) > most(api.EdgeItem):
-		return api.ErrMany
-	case len(g.Ins) > most(api.InItem), len(g.Outs) > most(api.OutItem):
-		return api.ErrMany
+		return flaw{code: api.ErrEmpty}
+	case len(g.Actors) > api.MaxActors:
+		return surplus(api.ActorItem, api.MaxActors)
+	case len(g.Edges) > api.MaxEdges:
+		return surplus(api.EdgeItem, api.MaxEdges)
+	case len(g.Ins) > api.MaxPorts:
+		return surplus(api.InItem, api.MaxPorts)
+	case len(g.Outs) > api.MaxPorts:
+		return surplus(api.OutItem, api.MaxPorts)
 	}
-	return api.OK
+	return flaw{}
 }
 
-// most is how many of a kind a graph may have.
-func most(kind api.ItemKind) int {
-	switch kind {
-	case api.ActorItem:
-		return api.MaxActors
-	case api.EdgeItem:
-		return api.MaxEdges
-	}
-	return api.MaxPorts
+// surplus is of the first one too many of a kind: numbers count from 0 on, so that its number is how many there may be.
+func surplus(kind api.ItemKind, most int) flaw {
+	return flaw{code: api.ErrMany, kind: kind, number: most}
 }
 
 func actorFlaw(l *ledger, actors []api.Actor) flaw {

@@ -45,23 +45,64 @@ func TestThereAndBack(t *testing.T) {
 	}
 }
 
-// TestOrderOfKinds is P8.4: items of unlike Kinds may stand in any order, in sketches that are sound and in those that are not.
+// TestOrderOfKinds is P8.4: items of unlike Kinds may stand in any order, in sketches that are sound and in those that are not; an error has its place in each order, ErrMany, too.
 func TestOrderOfKinds(t *testing.T) {
 	c := chance(48)
-	for range 4000 {
+	many := 0
+	for i := range 5000 {
 		s := c.spoilt()
+		if i%2 == 0 {
+			s = c.crowded()
+		}
 		if slices.ContainsFunc(s.Items, func(item api.Item) bool { return item.Kind == 0 || item.Kind > 4 }) {
 			continue
 		}
 		g, f := graph.Build(s)
-		turned := api.Sketch{Name: s.Name}
-		kinds := []api.ItemKind{api.ActorItem, api.EdgeItem, api.InItem, api.OutItem}
-		mix(&c, kinds)
-		for _, kind := range kinds {
-			turned.Items = append(turned.Items, ofKind(s, kind)...)
+		if f.Code == api.ErrMany && len(crowds(s)) > 1 {
+			many++
 		}
-		if f.Code != api.ErrMany {
-			builds(t, turned, g, f)
+		for range 3 {
+			builds(t, c.turned(s), g, f)
+		}
+		if t.Failed() {
+			return
+		}
+	}
+	if many < 500 {
+		t.Errorf("%d sketches only had too many of more than one Kind", many)
+	}
+}
+
+// crowds are the Kinds of which a sketch has too many items.
+func crowds(s api.Sketch) []api.ItemKind {
+	var kinds []api.ItemKind
+	for _, kind := range []api.ItemKind{api.ActorItem, api.EdgeItem, api.InItem, api.OutItem} {
+		if len(ofKind(s, kind)) > most(kind) {
+			kinds = append(kinds, kind)
+		}
+	}
+	return kinds
+}
+
+// TestTooManyOfTwo is P8.2 and P8.4: of each two Kinds of which there are too many, the place is that of the one that P8.1 names first, whichever stands first, and however they are mixed.
+func TestTooManyOfTwo(t *testing.T) {
+	c := chance(27)
+	kinds := []api.ItemKind{api.ActorItem, api.EdgeItem, api.InItem, api.OutItem}
+	for i, first := range kinds {
+		for _, second := range kinds[i+1:] {
+			ahead := many(first, most(first)+3, 1000)
+			behind := many(second, most(second)+3, 2000)
+			alone := many(api.ActorItem, 1, 10)
+			want := api.Fault{Code: api.ErrMany, At: 1000 + most(first)}
+			if first == api.ActorItem {
+				alone = nil
+			}
+			s := api.Sketch{Name: "g", Items: slices.Concat(alone, ahead, behind)}
+			builds(t, s, api.Graph{}, want)
+			builds(t, api.Sketch{Name: "g", Items: slices.Concat(behind, ahead, alone)}, api.Graph{}, want)
+			for range 50 {
+				builds(t, c.turned(s), api.Graph{}, want)
+			}
 		}
 	}
 }

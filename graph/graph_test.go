@@ -360,8 +360,11 @@ func TestCheckMany(t *testing.T) {
 // TestBuildMany is P8.2: against the model, at many sketches that have some things wrong, and at sound ones.
 func TestBuildMany(t *testing.T) {
 	c := chance(8)
-	for range 60000 {
+	for i := range 60000 {
 		s := c.spoilt()
+		if i%30 == 0 {
+			s = c.crowded()
+		}
 		want, fault := expectedBuild(s)
 		builds(t, s, want, fault)
 		if t.Failed() {
@@ -409,7 +412,10 @@ func TestBuildPlaces(t *testing.T) {
 	}
 }
 
-// many is n items of a Kind, with the places 100, 101 and so on.
+// most is how many items of a Kind there may be.
+func most(kind api.ItemKind) int { return []int{0, 32, 96, 16, 16}[kind] }
+
+// many is n items of a Kind, with the places at, at + 1 and so on.
 func many(kind api.ItemKind, n, at int) []api.Item {
 	items := make([]api.Item, n)
 	for i := range items {
@@ -418,12 +424,11 @@ func many(kind api.ItemKind, n, at int) []api.Item {
 	return items
 }
 
-// TestBuildTooMany is P8.2: ErrMany's place is that of the first item that is one too many of its Kind, whichever Kind it is.
+// TestBuildTooMany is P8.2: ErrMany's place is that of the first item that is one too many of its Kind, whichever Kind it is; of several such Kinds it is the one that P8.1 names first.
 func TestBuildTooMany(t *testing.T) {
-	most := map[api.ItemKind]int{api.ActorItem: 32, api.EdgeItem: 96, api.InItem: 16, api.OutItem: 16}
 	first := many(api.ActorItem, 1, 5)
-	for kind, n := range most {
-		room := n
+	for _, kind := range []api.ItemKind{api.ActorItem, api.EdgeItem, api.InItem, api.OutItem} {
+		room := most(kind)
 		if kind == api.ActorItem {
 			room--
 		}
@@ -433,18 +438,16 @@ func TestBuildTooMany(t *testing.T) {
 		}
 		s := api.Sketch{Name: "g", Items: append(slices.Clone(first), many(kind, room, 1000)...)}
 		if _, f := graph.Build(s); f.Code == api.ErrMany {
-			t.Errorf("%d of Kind %d are too many", n, kind)
+			t.Errorf("%d of Kind %d are too many", most(kind), kind)
 		}
 		s.Name = ""
 		builds(t, s, api.Graph{}, api.Fault{Code: api.ErrName})
 	}
-	late := append(many(api.OutItem, 16, 0), many(api.ActorItem, 32, 100)...)
-	late = append(late, many(api.EdgeItem, 97, 200)...)
-	late = append(late, many(api.OutItem, 1, 300)...)
-	late = append(late, many(api.ActorItem, 1, 301)...)
-	builds(t, api.Sketch{Name: "g", Items: late}, api.Graph{}, api.Fault{Code: api.ErrMany, At: 296})
-	late[16+32+96].Kind = api.InItem
-	builds(t, api.Sketch{Name: "g", Items: late}, api.Graph{}, api.Fault{Code: api.ErrMany, At: 300})
+	all := slices.Concat(many(api.OutItem, 17, 100), many(api.InItem, 17, 200), many(api.EdgeItem, 97, 300), many(api.ActorItem, 33, 400))
+	for _, at := range []int{432, 396, 216, 116} {
+		builds(t, api.Sketch{Name: "g", Items: all}, api.Graph{}, api.Fault{Code: api.ErrMany, At: at})
+		all = slices.DeleteFunc(all, func(item api.Item) bool { return item.At == at })
+	}
 	builds(t, api.Sketch{Name: "g", Items: many(api.InItem, 17, 4)}, api.Graph{}, api.Fault{Code: api.ErrEmpty})
 }
 

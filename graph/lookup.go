@@ -66,9 +66,6 @@ func copied(ns []int) []int { return append([]int(nil), ns...) }
 
 // placeOf is where in the text a flaw is.
 func placeOf(f flaw, items []api.Item) int {
-	if f.code == api.ErrMany {
-		return placeOfSurplus(items)
-	}
 	number := 0
 	for _, item := range items {
 		if item.Kind != f.kind {
@@ -90,16 +87,4 @@ func placeWithin(item api.Item, at end) int {
 		return item.To.At
 	}
 	return item.At
-}
-
-// placeOfSurplus is where the first item stands that is one too many of its Kind.
-func placeOfSurplus(items []api.Item) int {
-	var seen [api.OutItem + 1]int
-	for _, item := range items {
-		seen[item.Kind]++
-		if seen[item.Kind] > most(item.Kind) {
-			return item.At
-		}
-	}
-	return 0
 }

@@ -22,7 +22,7 @@ type finding struct {
 	at   where
 }
 
-// where says what a finding's place is: of the graph, of the first item too many, of the item of a kind with a number, or of a place of it.
+// where says what a finding's place is: of the graph, of the item of a kind with a number, or of a place of it.
 type where struct {
 	kind   api.ItemKind
 	number int
@@ -92,8 +92,10 @@ func (m *model) head() {
 	g := m.g
 	m.if_(!name.MatchString(g.Name), 1, 0, 0, api.ErrName, where{})
 	m.if_(len(g.Actors) == 0, 1, 0, 1, api.ErrEmpty, where{})
-	many := len(g.Actors) > 32 || len(g.Edges) > 96 || len(g.Ins) > 16 || len(g.Outs) > 16
-	m.if_(many, 1, 0, 2, api.ErrMany, where{field: "many"})
+	m.if_(len(g.Actors) > 32, 1, 0, 2, api.ErrMany, where{api.ActorItem, 32, "item"})
+	m.if_(len(g.Edges) > 96, 1, 0, 3, api.ErrMany, where{api.EdgeItem, 96, "item"})
+	m.if_(len(g.Ins) > 16, 1, 0, 4, api.ErrMany, where{api.InItem, 16, "item"})
+	m.if_(len(g.Outs) > 16, 1, 0, 5, api.ErrMany, where{api.OutItem, 16, "item"})
 }
 
 func (m *model) actors() {
@@ -218,13 +220,6 @@ func expectedPlace(s api.Sketch, at where) int {
 		return ofKind(s, at.kind)[at.number].From.At
 	case "to":
 		return ofKind(s, at.kind)[at.number].To.At
-	case "many":
-		most := map[api.ItemKind]int{api.ActorItem: 32, api.EdgeItem: 96, api.InItem: 16, api.OutItem: 16}
-		for i, item := range s.Items {
-			if len(ofKind(api.Sketch{Items: s.Items[:i+1]}, item.Kind)) > most[item.Kind] {
-				return item.At
-			}
-		}
 	}
 	return 0
 }
